@@ -6,6 +6,7 @@ import (
 	"testing"
 
 	"pointsman/api"
+	"pointsman/code"
 	"pointsman/lower"
 	"pointsman/types"
 )
@@ -45,8 +46,8 @@ func coded(t *testing.T, p api.Program) api.Code {
 	if e != api.OK {
 		t.Fatalf("Code(%.4000s) = %d", told(p), e)
 	}
-	if l := faultsOf(c); len(l) > 0 {
-		t.Fatalf("Code(%.4000s) = %.4000s, which may not be: %.2000q", told(p), told(c), l)
+	if e := code.Check(c); e != api.OK {
+		t.Fatalf("Code(%.4000s) = %.4000s, of which Check says %d", told(p), told(c), e)
 	}
 	shapeIs(t, p, c)
 	return c

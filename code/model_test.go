@@ -1,14 +1,15 @@
-package lower_test
+package code_test
 
 import (
 	"fmt"
+	"reflect"
 
 	"pointsman/api"
 	"pointsman/bits"
 	"pointsman/sums"
 )
 
-// judge notes what chapter 12 says may not be in code.
+// judge is the model of Check: it notes all that chapter 12 says may not be in code, where Check stops at the first.
 type judge struct {
 	c      api.Code
 	faults []string
@@ -232,7 +233,9 @@ func (j *judge) instruction(where string, l []api.Ins, at int, main bool) {
 	default:
 		j.must(false, "op")
 	}
-	j.must(fmt.Sprint(rest) == fmt.Sprint(api.Ins{}), "more than its row names")
+	j.must(len(rest.L) == 0, "slots that its row does not name")
+	rest.L = nil
+	j.must(reflect.DeepEqual(rest, api.Ins{}), "more than its row names")
 	j.must(len(j.faults) == known, "%s %d: %+v", where, at, i)
 }
 
@@ -245,12 +248,48 @@ func (j *judge) operation(i api.Ins) {
 	}
 	j.must(i.By == api.OpSlice || i.M == 0, "M")
 	j.must(i.By == api.OpSlice || i.By == api.OpCast || i.N == 0, "N")
-	a, b := api.Bits{W: j.wide(i.A)}, api.Bits{}
+	a, b := j.wide(i.A), 0
 	if two {
-		b.W = j.wide(i.B)
+		b = j.wide(i.B)
 	}
-	got, e := bits.Do(i.By, a, b, i.N, i.M)
-	j.must(e == api.OK && got.W == j.wide(i.To), "operation")
+	w := widthOf(i.By, a, b, i.N, i.M)
+	j.must(w > 0 && w == j.wide(i.To), "operation")
+}
+
+// widthOf is how wide an operation's number is, as chapter 1 says; 0, if there is none. A width that is not asked for may be any.
+func widthOf(by api.Op, a, b, n, m int) int {
+	alike := func(w int) int {
+		if a != b {
+			return 0
+		}
+		return w
+	}
+	switch by {
+	case api.OpAdd, api.OpSub, api.OpMul, api.OpAnd, api.OpOr, api.OpXor:
+		return alike(a)
+	case api.OpEq, api.OpNe, api.OpLt, api.OpLe:
+		return alike(1)
+	case api.OpBoth, api.OpAny:
+		if a != 1 {
+			return 0
+		}
+		return alike(1)
+	case api.OpNot, api.OpShl, api.OpShr:
+		return a
+	case api.OpCat:
+		if a+b <= api.MaxWidth {
+			return a + b
+		}
+	case api.OpSlice:
+		if within(m, n+1) && within(n, a) {
+			return n - m + 1
+		}
+	case api.OpCast:
+		if within(n-1, api.MaxWidth) {
+			return n
+		}
+	}
+	return 0
 }
 
 func (j *judge) slots(l []int) {
