@@ -4,6 +4,7 @@ import (
 	"pointsman/api"
 	"pointsman/cells"
 	"pointsman/match"
+	"pointsman/worlds"
 )
 
 // lastKind is the last one of the kinds of statements.
@@ -74,6 +75,16 @@ func (x *pass) apply(s *api.Stmt) {
 	}
 }
 
+// tableOf is how a table matches keys that are as wide as these.
+func tableOf(d *api.Decl, keys []api.Bits) match.Table {
+	t := match.Table{Size: d.N}
+	for i, k := range keys {
+		t.Kinds = append(t.Kinds, d.Keys[i].Kind)
+		t.Widths = append(t.Widths, k.W)
+	}
+	return t
+}
+
 func (x *pass) call(s *api.Stmt) { x.act(s.Name, x.all(s.Args)) }
 
 // act does an action. None does another one, so that the params of one at a time are enough.
@@ -95,11 +106,15 @@ func (x *pass) gone(s *api.Stmt) {
 	h.clear()
 }
 
+// find is the cell at the place that an expression tells, if there is one.
+func (x *pass) find(array string, place *api.Expr) (worlds.Cell, bool) {
+	return worlds.Find(&x.world.Arrays[x.places[array]], x.value(place))
+}
+
 func (x *pass) count(s *api.Stmt) {
 	if c, ok := x.find(s.Name, &s.Args[0]); ok {
-		a, _ := cells.Count(c.alone(), first())
-		c.keep(a)
-		x.tell(api.Effect{Kind: api.EfCount, Array: s.Name, Cell: c.at})
+		c.Count()
+		x.tell(api.Effect{Kind: api.EfCount, Array: s.Name, Cell: c.At()})
 	}
 }
 
@@ -109,17 +124,16 @@ func (x *pass) read(s *api.Stmt) {
 		x.setField(s, api.Bits{W: x.widthOf(s)})
 		return
 	}
-	v, _ := cells.Read(c.alone(), first())
+	v := c.Read()
 	x.setField(s, v)
-	x.tell(api.Effect{Kind: api.EfRead, Array: s.Array, Cell: c.at, Value: v})
+	x.tell(api.Effect{Kind: api.EfRead, Array: s.Array, Cell: c.At(), Value: v})
 }
 
 func (x *pass) write(s *api.Stmt) {
 	if c, ok := x.find(s.Array, &s.Args[0]); ok {
 		v := x.value(&s.Args[1])
-		a, _ := cells.Write(c.alone(), first(), v)
-		c.keep(a)
-		x.tell(api.Effect{Kind: api.EfWrite, Array: s.Array, Cell: c.at, Value: v})
+		c.Write(v)
+		x.tell(api.Effect{Kind: api.EfWrite, Array: s.Array, Cell: c.At(), Value: v})
 	}
 }
 
@@ -129,10 +143,9 @@ func (x *pass) meter(s *api.Stmt) {
 		x.setField(s, api.Bits{W: x.widthOf(s)})
 		return
 	}
-	a, v, _ := cells.Meter(c.alone(), first(), x.world.Now)
-	c.keep(a)
+	v := c.Meter(x.world.Now)
 	x.setField(s, v)
-	x.tell(api.Effect{Kind: api.EfMeter, Array: s.Array, Cell: c.at, Value: v})
+	x.tell(api.Effect{Kind: api.EfMeter, Array: s.Array, Cell: c.At(), Value: v})
 }
 
 func (x *pass) random(s *api.Stmt) {

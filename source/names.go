@@ -7,10 +7,8 @@ const metaName = "meta"
 
 // names are what the names of a program mean. The program must be one that may be.
 type names struct {
-	program  api.Program
 	decls    map[string]*api.Decl
-	places   map[string]int // of tables among the world's, of arrays among its arrays
-	tables   []*api.Decl
+	places   map[string]int        // of tables among the world's, of arrays among its arrays
 	states   map[string]*api.State // none: there is no parser
 	meta     []api.Field
 	control  []api.Stmt
@@ -18,8 +16,8 @@ type names struct {
 }
 
 func namesOf(p api.Program) *names {
-	n := &names{program: p, decls: map[string]*api.Decl{}, places: map[string]int{}, states: map[string]*api.State{}, meta: []api.Field{{Name: "port", W: 16}, {Name: "out", W: 16}}}
-	arrays := 0
+	n := &names{decls: map[string]*api.Decl{}, places: map[string]int{}, states: map[string]*api.State{}, meta: []api.Field{{Name: "port", W: 16}, {Name: "out", W: 16}}}
+	tables, arrays := 0, 0
 	for i := range p {
 		d := &p[i]
 		switch d.Kind {
@@ -27,8 +25,8 @@ func namesOf(p api.Program) *names {
 			n.places[d.Name] = arrays
 			arrays++
 		case api.DeTable:
-			n.places[d.Name] = len(n.tables)
-			n.tables = append(n.tables, d)
+			n.places[d.Name] = tables
+			tables++
 		default:
 			n.addPart(d)
 		}

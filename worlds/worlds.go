@@ -1,0 +1,35 @@
+// Package worlds is what a pass by the tree and a pass by the code ask of a world alike: whether it is a program's, a copy in which cells may change, and these cells one by one.
+package worlds
+
+import (
+	"slices"
+
+	"pointsman/api"
+)
+
+// Copied: the world in memory of its own.
+func Copied(w api.World) api.World {
+	w.Tables = slices.Clone(w.Tables)
+	for i := range w.Tables {
+		r := &w.Tables[i]
+		r.Entries, r.Args = copiedEntries(r.Entries), slices.Clone(r.Args)
+	}
+	w.Arrays = slices.Clone(w.Arrays)
+	for i := range w.Arrays {
+		a := &w.Arrays[i]
+		a.Cells, a.Last = slices.Clone(a.Cells), slices.Clone(a.Last)
+	}
+	w.Groups = slices.Clone(w.Groups)
+	for i := range w.Groups {
+		w.Groups[i].Ports = slices.Clone(w.Groups[i].Ports)
+	}
+	return w
+}
+
+func copiedEntries(l []api.Entry) []api.Entry {
+	l = slices.Clone(l)
+	for i := range l {
+		l[i].Matches, l[i].Args = slices.Clone(l[i].Matches), slices.Clone(l[i].Args)
+	}
+	return l
+}
