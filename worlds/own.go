@@ -5,9 +5,7 @@ import (
 	"slices"
 
 	"pointsman/api"
-	"pointsman/bits"
 	"pointsman/cells"
-	"pointsman/match"
 )
 
 // maxPort is the greatest port that there is.
@@ -22,10 +20,13 @@ func Own(p api.Program, w api.World) bool {
 // IsPort: is there such a port?
 func IsPort(n int) bool { return 0 <= n && n <= maxPort }
 
+// ArePorts: may a group have them?
+func ArePorts(l []int) bool {
+	return len(l) <= api.MaxGroup && !slices.ContainsFunc(l, func(n int) bool { return !IsPort(n) })
+}
+
 func groupsMayBe(l []api.Group) bool {
-	return len(l) == api.MaxGroup && !slices.ContainsFunc(l, func(g api.Group) bool {
-		return len(g.Ports) > api.MaxGroup || slices.ContainsFunc(g.Ports, func(port int) bool { return !IsPort(port) })
-	})
+	return len(l) == api.MaxGroup && !slices.ContainsFunc(l, func(g api.Group) bool { return !ArePorts(g.Ports) })
 }
 
 func (o *owner) ownsArrays(l []api.Array) bool {
@@ -38,23 +39,7 @@ func alike(a, b api.Array) bool {
 }
 
 func (o *owner) ownsTables(l []api.Rows) bool {
-	return slices.EqualFunc(l, o.tables, func(r api.Rows, d *api.Decl) bool {
-		return r.Name == d.Name && o.canDo(d, r.Default, r.Args) && o.ownsEntries(d, r.Entries)
-	})
-}
-
-func (o *owner) ownsEntries(d *api.Decl, l []api.Entry) bool {
-	t := o.table(d)
-	return len(l) <= d.N && apart(l) && !slices.ContainsFunc(l, func(e api.Entry) bool {
-		return match.Check(t, e) != api.OK || !o.canDo(d, e.Action, e.Args)
-	})
-}
-
-// canDo: has the table that action, and are these args as wide as its params?
-func (o *owner) canDo(table *api.Decl, action string, args []api.Bits) bool {
-	return slices.Contains(table.Actions, action) && slices.EqualFunc(args, o.actions[action].Fields, func(b api.Bits, f api.Field) bool {
-		return b.W == f.W && bits.Check(b)
-	})
+	return slices.EqualFunc(l, o.tables(), func(r api.Rows, t Table) bool { return t.owns(r) })
 }
 
 // apart: are no two entries of one place? Those that are would be neighbours when they are sorted: to hold each against each takes too long.

@@ -15,7 +15,6 @@ type fieldName struct{ owner, field string }
 // owner is what a program says of its world.
 type owner struct {
 	program api.Program
-	tables  []*api.Decl
 	actions map[string]*api.Decl
 	fields  map[fieldName]int // how wide
 }
@@ -32,8 +31,6 @@ func ownerOf(p api.Program) *owner {
 			o.addFields(metaName, d.Fields)
 		case api.DeAction:
 			o.actions[d.Name] = d
-		case api.DeTable:
-			o.tables = append(o.tables, d)
 		}
 	}
 	return o
@@ -45,7 +42,18 @@ func (o *owner) addFields(name string, l []api.Field) {
 	}
 }
 
-func (o *owner) table(d *api.Decl) match.Table {
+// tables is asked when the whole program is noted: what a table names may stand behind it.
+func (o *owner) tables() []Table {
+	var l []Table
+	for i := range o.program {
+		if d := &o.program[i]; d.Kind == api.DeTable {
+			l = append(l, Table{Table: o.keys(d), Name: d.Name, own: d.Actions, actions: o.actions})
+		}
+	}
+	return l
+}
+
+func (o *owner) keys(d *api.Decl) match.Table {
 	t := match.Table{Size: d.N}
 	for i := range d.Keys {
 		t.Kinds = append(t.Kinds, d.Keys[i].Kind)

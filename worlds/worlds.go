@@ -1,4 +1,4 @@
-// Package worlds is what a pass by the tree and a pass by the code ask of a world alike: whether it is a program's, a copy in which cells may change, and these cells one by one.
+// Package worlds is what passes, by the tree and by the code, and updates ask of a world alike: whether it is a program's, what its tables may have, a copy that may change, and its cells one by one.
 package worlds
 
 import (
@@ -12,7 +12,7 @@ func Copied(w api.World) api.World {
 	w.Tables = slices.Clone(w.Tables)
 	for i := range w.Tables {
 		r := &w.Tables[i]
-		r.Entries, r.Args = copiedEntries(r.Entries), slices.Clone(r.Args)
+		r.Entries, r.Args = CopiedEntries(r.Entries), slices.Clone(r.Args)
 	}
 	w.Arrays = slices.Clone(w.Arrays)
 	for i := range w.Arrays {
@@ -26,7 +26,8 @@ func Copied(w api.World) api.World {
 	return w
 }
 
-func copiedEntries(l []api.Entry) []api.Entry {
+// CopiedEntries: likewise.
+func CopiedEntries(l []api.Entry) []api.Entry {
 	l = slices.Clone(l)
 	for i := range l {
 		l[i].Matches, l[i].Args = slices.Clone(l[i].Matches), slices.Clone(l[i].Args)
