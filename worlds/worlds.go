@@ -1,4 +1,4 @@
-// Package worlds is what passes, by the tree and by the code, and updates ask of a world alike: whether it is a program's, what its tables may have, a copy that may change, and its cells one by one.
+// Package worlds is what passes, by the tree and by the code, updates, and a state that keeps a world ask of it alike: whether it is a program's, what its tables may have, a copy that may change, and its cells one by one.
 package worlds
 
 import (
